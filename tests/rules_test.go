@@ -1,218 +1,113 @@
 package tests
 
 import (
-	"bytes"
-	"fmt"
-	"math"
-	"strings"
+	"cmp"
+	"reflect"
+	"slices"
 	"testing"
-
-	"loop.example/g00163/impl"
 )
 
-// given is what the functions are handed; each takes of it what it asks for.
-type given struct {
-	n, at int
-	f, g  float64
-	t     string
-	b     []byte
-	p, q  []impl.Part
+// call is a function with what it is handed.
+type call struct {
+	name  string
+	coded bool // the last of its answers is a code
+	does  reflect.Value
+	args  []any
 }
 
-// answer is what a function answers; what it has none of is zero.
-type answer struct {
-	code, number, place int
-	yes                 bool
-	float               float64
-	text                string
-	bytes               []byte
-	parts               []impl.Part
+func (c call) String() string {
+	return c.name + "(" + shorten(told(c.args)) + ")"
 }
 
-type function struct {
-	name string
-	call func(x given) answer
+// coded are calls of a function that answers a code last; plain are those of others.
+func coded(name string, does any, args [][]any) []call {
+	return callsOf(call{name: name, coded: true, does: reflect.ValueOf(does)}, args)
 }
 
-func functions() []function {
-	return []function{
-		{"NameOK", func(x given) answer { return answer{yes: impl.NameOK(x.t)} }},
-		{"CodeWord", func(x given) answer { return answer{text: impl.CodeWord(x.n)} }},
-		{"CodeOf", func(x given) answer { return answer{number: impl.CodeOf(x.t)} }},
-		{"IntKey", func(x given) answer { return answer{bytes: impl.IntKey(x.n)} }},
-		{"KeyInt", func(x given) answer {
-			n, code := impl.KeyInt(x.b)
-			return answer{number: n, code: code}
-		}},
-		{"FloatKey", func(x given) answer { return answer{bytes: impl.FloatKey(x.f)} }},
-		{"KeyFloat", func(x given) answer {
-			f, code := impl.KeyFloat(x.b)
-			return answer{float: f, code: code}
-		}},
-		{"CompareFloats", func(x given) answer { return answer{number: impl.CompareFloats(x.f, x.g)} }},
-		{"TextKey", func(x given) answer {
-			b, code := impl.TextKey(x.t)
-			return answer{bytes: b, code: code}
-		}},
-		{"KeyText", func(x given) answer {
-			text, next, code := impl.KeyText(x.b, x.at)
-			return answer{text: text, place: next, code: code}
-		}},
-		{"TupleKey", func(x given) answer {
-			b, code := impl.TupleKey(x.p)
-			return answer{bytes: b, code: code}
-		}},
-		{"ReadTuple", func(x given) answer {
-			parts, code := impl.ReadTuple(x.b)
-			return answer{parts: parts, code: code}
-		}},
-		{"CompareParts", func(x given) answer {
-			n, code := impl.CompareParts(x.p, x.q)
-			return answer{number: n, code: code}
-		}},
-	}
+func plain(name string, does any, args [][]any) []call {
+	return callsOf(call{name: name, does: reflect.ValueOf(does)}, args)
 }
 
-func givenTexts() []string {
-	return []string{
-		"", "a", "ok", "conflict", "a\x00b", "\x00", "\x01", "\xff",
-		strings.Repeat("\x00", impl.MaxKey), strings.Repeat("a", impl.MaxKey+1),
-		strings.Repeat("a", impl.MaxText), strings.Repeat("a", impl.MaxText+1),
-	}
-}
-
-func givenBytes(t *testing.T) [][]byte {
-	six := tupleKey(t, manyParts()...)
-	return [][]byte{
-		nil, {}, {0}, {1}, {2}, {3}, {0, 1}, {0, 255}, {0, 2}, {255},
-		impl.IntKey(-7), impl.FloatKey(-7.5), impl.IntKey(math.MaxInt)[:7], append(impl.IntKey(7), 0),
-		textKey(t, "a\x00b"), append(textKey(t, "ab"), "behind"...), textKey(t, strings.Repeat("\x00", impl.MaxKey)),
-		plainTextKey(strings.Repeat("a", impl.MaxKey+1)),
-		tupleKey(t, intPart(1)), tupleKey(t, floatPart(math.NaN())), tupleKey(t, textPart("abc"), textPart("abc"), textPart("d\x00e")),
-		six, six[:len(six)-1], append(bytes.Clone(six), 1), append(bytes.Clone(six), six...),
-		bytes.Repeat([]byte{3, 'a', 0, 1}, impl.MaxText/4), bytes.Repeat([]byte{'a'}, impl.MaxText), make([]byte, impl.MaxText), make([]byte, impl.MaxText+1),
-	}
-}
-
-func givenParts() [][]impl.Part {
-	list := [][]impl.Part{
-		nil, {}, {intPart(1)}, {floatPart(negativeNought)}, {textPart("a\x00b")}, {textPart("a"), textPart("b"), intPart(2)},
-		manyParts(), repeatPart(intPart(1), impl.MaxParts+1), repeatPart(intPart(1), impl.MaxList), repeatPart(intPart(1), impl.MaxList+1),
-	}
-	for _, p := range wrongParts() {
-		list = append(list, []impl.Part{intPart(1), p})
+func callsOf(c call, args [][]any) []call {
+	var list []call
+	for _, c.args = range args {
+		list = append(list, c)
 	}
 	return list
 }
 
-// allGiven go through each kind of argument, with the numbers and places around them.
-func allGiven(t *testing.T) []given {
-	var list []given
-	for i, n := range append(risingInts(), -13, 3, 9, 12, 13) {
-		floats := risingFloats()
-		list = append(list, given{n: n, at: n, f: floats[i%len(floats)], g: floats[(i*7+3)%len(floats)]})
+// each makes of every value the arguments of a call that takes it alone.
+func each[V any](values []V) [][]any {
+	var args [][]any
+	for _, v := range values {
+		args = append(args, []any{v})
 	}
-	for i, f := range risingFloats() {
-		floats := risingFloats()
-		list = append(list, given{f: f, g: floats[len(floats)-1-i]})
-	}
-	for _, text := range givenTexts() {
-		list = append(list, given{t: text})
-	}
-	for _, b := range givenBytes(t) {
-		for _, at := range []int{math.MinInt, -1, 0, 1, 2, len(b) - 1, len(b), len(b) + 1, math.MaxInt} {
-			list = append(list, given{b: b, at: at})
-		}
-	}
-	parts := givenParts()
-	for i, p := range parts {
-		list = append(list, given{p: p, q: parts[len(parts)-1-i]}, given{p: p, q: p}, given{p: p}, given{q: p})
-	}
-	return list
+	return args
 }
 
-// room is how many elements lie behind the end of a list that is handed in.
-const room = 24
+func allCalls(t *testing.T) []call {
+	return slices.Concat(keyCalls(t), flashCalls())
+}
 
-// memory is a list in memory of its own, with other elements behind its end.
-func memory[E any](list []E, fill E, behind int) []E {
-	if list == nil && behind == 0 {
-		return nil
+// handed are the arguments of a call in memory of their own.
+func (c call) handed(behind int) []any {
+	var args []any
+	for _, a := range c.args {
+		args = append(args, own(a, behind))
 	}
-	whole := make([]E, len(list)+behind)
-	for i := range whole {
-		whole[i] = fill
+	return args
+}
+
+func (c call) emptied(toNil bool) []any {
+	var args []any
+	for _, a := range c.args {
+		args = append(args, emptied(a, toNil))
 	}
-	copy(whole, list)
-	return whole[:len(list)]
+	return args
 }
 
-func ownTexts(parts []impl.Part) []impl.Part {
-	for i := range parts {
-		parts[i].T = strings.Clone(parts[i].T)
-	}
-	return parts
-}
-
-// own is the same arguments in memory of their own.
-func own(x given, behind int) given {
-	x.t = strings.Clone(x.t)
-	x.b = memory(x.b, 0xA5, behind)
-	x.p = ownTexts(memory(x.p, textPart("behind"), behind))
-	x.q = ownTexts(memory(x.q, textPart("behind"), behind))
-	return x
-}
-
-// toldGiven tells the arguments, and what lies behind the ends of their lists.
-func toldGiven(x given) string {
-	sizes := fmt.Sprintln(len(x.t), len(x.b), cap(x.b), len(x.p), cap(x.p), len(x.q), cap(x.q), x.n, x.at, x.f, x.g)
-	return sizes + x.t + string(x.b[:cap(x.b)]) + toldParts(x.p[:cap(x.p)]) + toldParts(x.q[:cap(x.q)])
-}
-
-func toldAnswer(a answer) string {
-	numbers := fmt.Sprintln(a.code, a.number, a.place, a.yes, math.Float64bits(a.float), len(a.text), len(a.bytes), len(a.parts))
-	return numbers + a.text + string(a.bytes) + toldParts(a.parts)
-}
-
-func spoilBytes(b []byte) {
-	b = b[:cap(b)]
-	for i := range b {
-		b[i] ^= 0x5A
-	}
-}
-
-func spoilParts(parts []impl.Part) {
-	parts = parts[:cap(parts)]
-	for i := range parts {
-		parts[i] = impl.Part{Kind: -99, N: 99, F: -99, T: "spoilt"}
-	}
-}
-
-// tryCall calls a function; a panic is a fault.
-func tryCall(t *testing.T, f function, x given) (a answer) {
+// try calls with some arguments; a panic is a fault.
+func (c call) try(t *testing.T, args []any) (answers []any) {
 	t.Helper()
 	defer func() {
 		if p := recover(); p != nil {
-			t.Errorf("%s(%q) panics: %v", f.name, shorten(toldGiven(x)), p)
+			t.Errorf("%q panics: %v", c, p)
 		}
 	}()
-	return f.call(x)
+	var values []reflect.Value
+	for _, a := range args {
+		values = append(values, reflect.ValueOf(a))
+	}
+	for _, v := range c.does.Call(values) {
+		answers = append(answers, v.Interface())
+	}
+	return answers
 }
 
 func TestNoCallWritesIntoItsArguments(t *testing.T) {
-	for _, x := range allGiven(t) {
-		for _, f := range functions() {
-			for _, behind := range []int{0, 1, room} {
-				x := own(x, behind)
-				before := toldGiven(x)
-				a := tryCall(t, f, x)
-				if toldGiven(x) != before {
-					t.Errorf("%s(%q) changes an argument, or what lies behind it", f.name, shorten(before))
-				}
-				spoilBytes(a.bytes)
-				spoilParts(a.parts)
-				if toldGiven(x) != before {
-					t.Errorf("%s(%q) gives out an argument's memory", f.name, shorten(before))
+	for _, c := range allCalls(t) {
+		for _, behind := range []int{0, 1, room} {
+			args := c.handed(behind)
+			before := toldWhole(args)
+			c.try(t, args)
+			if toldWhole(args) != before {
+				t.Errorf("%q changes an argument, or what lies behind it", c)
+			}
+		}
+	}
+}
+
+func TestAnswersAreNewMemory(t *testing.T) {
+	for _, c := range allCalls(t) {
+		for _, behind := range []int{0, room} {
+			args := c.handed(behind)
+			answers := c.try(t, args)
+			spans := append(spansOf(args), spansOf(answers)...)
+			slices.SortFunc(spans, func(a, b span) int { return cmp.Compare(a.from, b.from) })
+			for i := 1; i < len(spans); i++ {
+				if spans[i].from < spans[i-1].to {
+					t.Errorf("%q: a list of its answer shares memory with another, or with an argument", c)
+					break
 				}
 			}
 		}
@@ -220,84 +115,73 @@ func TestNoCallWritesIntoItsArguments(t *testing.T) {
 }
 
 func TestAnswersDoNotHangOnArgumentsBehindTheCall(t *testing.T) {
-	for _, x := range allGiven(t) {
-		for _, f := range functions() {
-			x := own(x, room)
-			before := toldGiven(x)
-			a := tryCall(t, f, x)
-			told := toldAnswer(a)
-			spoilBytes(x.b)
-			spoilParts(x.p)
-			spoilParts(x.q)
-			if toldAnswer(a) != told {
-				t.Errorf("the answer of %s(%q) shares memory with an argument", f.name, shorten(before))
-			}
+	for _, c := range allCalls(t) {
+		args := c.handed(room)
+		answers := c.try(t, args)
+		before := told(answers)
+		spoil(args)
+		if told(answers) != before {
+			t.Errorf("the answer of %q changes with its arguments", c)
 		}
 	}
 }
 
 func TestAlikeArgumentsHaveAlikeAnswers(t *testing.T) {
-	for _, x := range allGiven(t) {
-		for _, f := range functions() {
-			first := tryCall(t, f, own(x, 0))
-			told := toldAnswer(first)
-			second := tryCall(t, f, own(x, room))
-			if toldAnswer(second) != told {
-				t.Errorf("%s(%q) answers otherwise when called again", f.name, shorten(toldGiven(x)))
-			}
-			spoilBytes(second.bytes)
-			spoilParts(second.parts)
-			if toldAnswer(first) != told {
-				t.Errorf("two answers of %s(%q) share memory", f.name, shorten(toldGiven(x)))
-			}
-			if toldAnswer(tryCall(t, f, x)) != told {
-				t.Errorf("%s(%q) hands out memory that it keeps", f.name, shorten(toldGiven(x)))
-			}
+	for _, c := range allCalls(t) {
+		first := c.try(t, c.handed(0))
+		before := told(first)
+		second := c.try(t, c.handed(room))
+		if told(second) != before {
+			t.Errorf("%q answers otherwise when called again", c)
+		}
+		spoil(second)
+		if told(first) != before {
+			t.Errorf("two answers of %q share memory", c)
+		}
+		if told(c.try(t, c.handed(0))) != before {
+			t.Errorf("%q hands out memory that it keeps", c)
 		}
 	}
 }
 
 func TestAnswersDoNotHangOnEarlierCalls(t *testing.T) {
-	var answers []answer
-	var told []string
-	list := allGiven(t)
-	for _, x := range list {
-		for _, f := range functions() {
-			a := tryCall(t, f, x)
-			answers = append(answers, a)
-			told = append(told, toldAnswer(a))
-		}
+	calls := allCalls(t)
+	var answers [][]any
+	var before []string
+	for _, c := range calls {
+		answers = append(answers, c.try(t, c.args))
+		before = append(before, told(answers[len(answers)-1]))
 	}
-	for i := len(told) - 1; i >= 0; i-- {
-		f, x := functions()[i%len(functions())], list[i/len(functions())]
-		if toldAnswer(tryCall(t, f, x)) != told[i] {
-			t.Errorf("%s(%q) answers otherwise behind other calls", f.name, shorten(toldGiven(x)))
+	for i := len(calls) - 1; i >= 0; i-- {
+		if told(calls[i].try(t, calls[i].args)) != before[i] {
+			t.Errorf("%q answers otherwise behind other calls", calls[i])
 		}
-		if toldAnswer(answers[i]) != told[i] {
-			t.Errorf("the answer of %s(%q) is changed by a later call", f.name, shorten(toldGiven(x)))
+		if told(answers[i]) != before[i] {
+			t.Errorf("the answer of %q is changed by a later call", calls[i])
 		}
 	}
 }
 
 func TestNilIsAnEmptyList(t *testing.T) {
-	for _, f := range functions() {
-		for _, at := range []int{-1, 0, 1} {
-			none := given{at: at}
-			empty := given{at: at, b: []byte{}, p: []impl.Part{}, q: []impl.Part{}}
-			if toldAnswer(tryCall(t, f, none)) != toldAnswer(tryCall(t, f, empty)) {
-				t.Errorf("%s tells nil from an empty list", f.name)
-			}
+	for _, c := range allCalls(t) {
+		if told(c.try(t, c.emptied(true))) != told(c.try(t, c.emptied(false))) {
+			t.Errorf("%q tells nil from an empty list", c)
 		}
 	}
 }
 
 func TestACodeMeansThatAllElseIsZero(t *testing.T) {
-	for _, x := range allGiven(t) {
-		for _, f := range functions() {
-			a := tryCall(t, f, x)
-			if a.code != impl.OK && toldAnswer(a) != toldAnswer(answer{code: a.code}) {
-				t.Errorf("%s(%q) answers %q with its code", f.name, shorten(toldGiven(x)), shorten(toldAnswer(a)))
-			}
+	for _, c := range allCalls(t) {
+		answers := c.try(t, c.args)
+		if !c.coded || len(answers) == 0 || answers[len(answers)-1] == 0 {
+			continue
+		}
+		var zeros []any
+		for _, a := range answers[:len(answers)-1] {
+			zeros = append(zeros, reflect.Zero(reflect.TypeOf(a)).Interface())
+		}
+		if told(answers[:len(answers)-1]) != told(zeros) {
+			t.Errorf("%q answers more than its code: %q", c, shorten(told(answers)))
 		}
 	}
 }
