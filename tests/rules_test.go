@@ -46,7 +46,7 @@ func each[V any](values []V) [][]any {
 }
 
 func allCalls(t *testing.T) []call {
-	return slices.Concat(keyCalls(t), flashCalls())
+	return slices.Concat(keyCalls(t), flashCalls(), imageCalls())
 }
 
 // handed are the arguments of a call in memory of their own.
