@@ -5,12 +5,15 @@ import (
 	"reflect"
 	"slices"
 	"testing"
+
+	"loop.example/g00163/impl"
 )
 
 // call is a function with what it is handed.
 type call struct {
 	name  string
 	coded bool // the last of its answers is a code
+	but   int  // a code that comes with other answers
 	does  reflect.Value
 	args  []any
 }
@@ -22,6 +25,11 @@ func (c call) String() string {
 // coded are calls of a function that answers a code last; plain are those of others.
 func coded(name string, does any, args [][]any) []call {
 	return callsOf(call{name: name, coded: true, does: reflect.ValueOf(does)}, args)
+}
+
+// codedBut are calls of a function with one code that comes with other answers.
+func codedBut(but int, name string, does any, args [][]any) []call {
+	return callsOf(call{name: name, coded: true, but: but, does: reflect.ValueOf(does)}, args)
 }
 
 func plain(name string, does any, args [][]any) []call {
@@ -46,7 +54,7 @@ func each[V any](values []V) [][]any {
 }
 
 func allCalls(t *testing.T) []call {
-	return slices.Concat(keyCalls(t), flashCalls(), imageCalls())
+	return slices.Concat(keyCalls(t), flashCalls(), imageCalls(), pageCalls())
 }
 
 // handed are the arguments of a call in memory of their own.
@@ -173,7 +181,10 @@ func TestNilIsAnEmptyList(t *testing.T) {
 func TestACodeMeansThatAllElseIsZero(t *testing.T) {
 	for _, c := range allCalls(t) {
 		answers := c.try(t, c.args)
-		if !c.coded || len(answers) == 0 || answers[len(answers)-1] == 0 {
+		if !c.coded || len(answers) == 0 {
+			continue
+		}
+		if code := answers[len(answers)-1]; code == impl.OK || code == c.but {
 			continue
 		}
 		var zeros []any
