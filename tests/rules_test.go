@@ -54,7 +54,7 @@ func each[V any](values []V) [][]any {
 }
 
 func allCalls(t *testing.T) []call {
-	return slices.Concat(keyCalls(t), flashCalls(), imageCalls(), pageCalls(), treeCalls(), versionCalls(), engineCalls())
+	return slices.Concat(keyCalls(t), flashCalls(), imageCalls(), pageCalls(), treeCalls(), versionCalls(), engineCalls(), consoleCalls())
 }
 
 // handed are the arguments of a call in memory of their own.
